@@ -1,6 +1,10 @@
 package date
 
-import "strings"
+import (
+	"strings"
+
+	"escheat/ascii"
+)
 
 // reading: of a date; it is wrong as soon as one of its parts is, so that it is enough to ask once, at the end.
 type reading struct{ wrong bool }
@@ -41,7 +45,7 @@ func (r *reading) day(dom, month, year string) int {
 
 func (r *reading) month(s string) int {
 	for i, m := range months {
-		if sameLetters(s, m.name) {
+		if ascii.Same(s, m.name) {
 			return i + 1
 		}
 	}
@@ -100,7 +104,7 @@ func (r *reading) number(s string, least, most int) int {
 // letters: is it a word of them?
 func letters(s string) bool {
 	for i := range len(s) {
-		if c := small(s[i]); c < 'a' || c > 'z' {
+		if c := ascii.Small(s[i]); c < 'a' || c > 'z' {
 			return false
 		}
 	}
@@ -110,24 +114,4 @@ func letters(s string) bool {
 // enclosed: does it begin with ( and end with )?
 func enclosed(s string) bool {
 	return strings.HasPrefix(s, "(") && strings.HasSuffix(s, ")")
-}
-
-// sameLetters: are they the same, but for small and great ones of a to z? (Those of the library take others for the same, too.)
-func sameLetters(a, b string) bool {
-	if len(a) != len(b) {
-		return false
-	}
-	for i := range len(a) {
-		if small(a[i]) != small(b[i]) {
-			return false
-		}
-	}
-	return true
-}
-
-func small(c byte) byte {
-	if c >= 'A' && c <= 'Z' {
-		return c + 'a' - 'A'
-	}
-	return c
 }
